@@ -22,9 +22,12 @@ func (s Set) Has(a int) bool { return s>>a&1 == 1 }
 // In: is each thing of s one of t?
 func (s Set) In(t Set) bool { return s&^t == 0 }
 
+// Len is how many things s has.
+func (s Set) Len() int { return bits.OnesCount64(uint64(s)) }
+
 // List has the things of s; it rises, and is new memory.
 func (s Set) List() []int {
-	list := make([]int, 0, bits.OnesCount64(uint64(s)))
+	list := make([]int, 0, s.Len())
 	for rest := uint64(s); rest != 0; rest &= rest - 1 {
 		list = append(list, bits.TrailingZeros64(rest))
 	}
