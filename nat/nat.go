@@ -47,14 +47,23 @@ func trimmed(parts []uint64) []uint64 {
 	return parts
 }
 
-// Mod is what is left of a by m, which is above 0.
-func (a Nat) Mod(m uint64) uint64 {
+// Div is how often m, which is above 0, goes into a, and what is left.
+func (a Nat) Div(m uint64) (Nat, uint64) {
+	parts := make([]uint64, len(a.parts))
 	left := uint64(0)
 	for i := len(a.parts) - 1; i >= 0; i-- {
+		// What is left is below m, so what is divided is below base m: the
+		// division cannot overflow, and its quotient is below base.
 		high, low := bits.Mul64(left, base)
 		low, over := bits.Add64(low, a.parts[i], 0)
-		left = bits.Rem64(high+over, low, m)
+		parts[i], left = bits.Div64(high+over, low, m)
 	}
+	return Nat{parts: trimmed(parts)}, left
+}
+
+// Mod is what is left of a by m, which is above 0.
+func (a Nat) Mod(m uint64) uint64 {
+	_, left := a.Div(m)
 	return left
 }
 

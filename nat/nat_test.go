@@ -47,6 +47,37 @@ func TestModIsExact(t *testing.T) {
 	}
 }
 
+func TestDivIsExact(t *testing.T) {
+	number := nat.Of(1)
+	want := big.NewInt(1)
+	for step := range uint64(60) {
+		number = number.TimesPlus(math.MaxUint64-step, step)
+		want.Mul(want, bigOf(math.MaxUint64-step)).Add(want, bigOf(step))
+		for _, m := range edges()[1:] {
+			times, left := new(big.Int).DivMod(want, bigOf(m), new(big.Int))
+			got, rest := number.Div(m)
+			if got.Decimal() != times.String() || rest != left.Uint64() {
+				t.Fatalf("%s by %d: %s and %d, want %s and %s", want, m, got.Decimal(), rest, times, left)
+			}
+		}
+	}
+}
+
+// TestDivOfLittle: where m is more than the number, and of 0.
+func TestDivOfLittle(t *testing.T) {
+	for _, a := range edges() {
+		for _, m := range edges()[1:] {
+			got, left := nat.Of(a).Div(m)
+			if got.Decimal() != bigOf(a/m).String() || left != a%m {
+				t.Errorf("%d by %d: %s and %d", a, m, got.Decimal(), left)
+			}
+			if again := got.TimesPlus(m, left); again.Decimal() != bigOf(a).String() {
+				t.Errorf("%d by %d, and back: %s", a, m, again.Decimal())
+			}
+		}
+	}
+}
+
 // TestModCarries: here the low half of a product is so near to 2^64 that what is added runs over.
 func TestModCarries(t *testing.T) {
 	const first = 15817289833210771
@@ -75,6 +106,7 @@ func TestNatDoesNotChange(t *testing.T) {
 	number.TimesPlus(7, 3)
 	number.TimesPlus(0, 0)
 	number.Mod(5)
+	number.Div(5)
 	if got := number.Decimal(); got != "18446744073709551615" {
 		t.Errorf("changed: %s", got)
 	}

@@ -4,10 +4,9 @@ import (
 	"slices"
 
 	"cayley/api"
+	"cayley/makers"
 	"cayley/perm"
 )
-
-const maxMakers = 20 // permutations that make a group
 
 // madeBy is the group of n things whose products multiply tells.
 func madeBy(n int, multiply func(a, b int) int) api.Group {
@@ -80,7 +79,7 @@ func Product(g, h api.Group) (api.Group, api.Fault) {
 
 // Perms is the group that the permutations of l make, and its things.
 func Perms(l [][]int) (api.Group, [][]int, api.Fault) {
-	if f := checkMakers(l); f.Code != api.OK {
+	if f := makers.Check(l); f.Code != api.OK {
 		return api.Group{}, nil, f
 	}
 	things := allProducts(l)
@@ -92,22 +91,6 @@ func Perms(l [][]int) (api.Group, [][]int, api.Fault) {
 		return at
 	})
 	return g, things, api.Fault{}
-}
-
-// checkMakers tells what is wrong with l, permutation by permutation.
-func checkMakers(l [][]int) api.Fault {
-	if len(l) < 1 || len(l) > maxMakers {
-		return api.Fault{Code: api.ErrMany}
-	}
-	for i, p := range l {
-		if f := perm.Check(p); f.Code != api.OK {
-			return api.Fault{Code: f.Code, At: i}
-		}
-		if len(p) != len(l[0]) {
-			return api.Fault{Code: api.ErrSize, At: i}
-		}
-	}
-	return api.Fault{}
 }
 
 // allProducts has all products of l's, rising; or some of them, if they are
