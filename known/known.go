@@ -42,6 +42,15 @@ func (g Group) Conjugate(x, a int) int {
 	return g.Product(g.Product(g.Inverses[a], x), a)
 }
 
+// Conjugated has all things of s, conjugated by a.
+func (g Group) Conjugated(s set.Set, a int) set.Set {
+	var out set.Set
+	for _, x := range s.List() {
+		out |= set.Of(g.Conjugate(x, a))
+	}
+	return out
+}
+
 // Commutator is that of a and b.
 func (g Group) Commutator(a, b int) int {
 	return g.Product(g.Inverses[a], g.Conjugate(a, b))

@@ -57,6 +57,21 @@ func TestThingsOfAGroup(t *testing.T) {
 	}
 }
 
+func TestConjugated(t *testing.T) {
+	six, f := table.Dihedral(3)
+	g := opened(t, six, f)
+	for s := range set.Set(1 << 6) {
+		for a := range g.N {
+			var want set.Set
+			for _, x := range s.List() {
+				want |= set.Of(g.Conjugate(x, a))
+			}
+			same(t, fmt.Sprint(s.List(), " by ", a), g.Conjugated(s, a), want)
+		}
+	}
+	same(t, "a mirror by a turn", g.Conjugated(set.Of(0, 3), 1).List(), "[0 4]")
+}
+
 func TestMade(t *testing.T) {
 	four, f := table.Dihedral(4)
 	g := opened(t, four, f)

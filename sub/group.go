@@ -20,18 +20,9 @@ func central(g known.Group, s set.Set) set.Set {
 	})
 }
 
-// conjugated has all things of s, conjugated by a.
-func conjugated(g known.Group, s set.Set, a int) set.Set {
-	var out set.Set
-	for _, x := range s.List() {
-		out |= set.Of(g.Conjugate(x, a))
-	}
-	return out
-}
-
 // normaliser has all things by which s, conjugated, is s.
 func normaliser(g known.Group, s set.Set) set.Set {
-	return g.Those(func(a int) bool { return conjugated(g, s, a) == s })
+	return g.Those(func(a int) bool { return g.Conjugated(s, a) == s })
 }
 
 // subgroups has each subgroup once, in no order that matters: from the one
