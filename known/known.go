@@ -92,3 +92,25 @@ func (g Group) Made(s set.Set) set.Set {
 	}
 	return subgroup
 }
+
+// Commutators is the subgroup that all commutators of a thing of s and one of t
+// make.
+func (g Group) Commutators(s, t set.Set) set.Set {
+	var commutators set.Set
+	for _, a := range s.List() {
+		for _, b := range t.List() {
+			commutators |= set.Of(g.Commutator(a, b))
+		}
+	}
+	return g.Made(commutators)
+}
+
+// Closure is the least subgroup that has all of s and is, conjugated by each
+// thing of the subgroup by, the same.
+func (g Group) Closure(s, by set.Set) set.Set {
+	var conjugates set.Set
+	for _, a := range by.List() {
+		conjugates |= g.Conjugated(s, a)
+	}
+	return g.Made(conjugates)
+}

@@ -90,3 +90,45 @@ func TestMade(t *testing.T) {
 		same(t, "has them", slices.ContainsFunc(s.List(), func(a int) bool { return !got.Has(a) }), false)
 	}
 }
+
+func TestCommutators(t *testing.T) {
+	six, f := table.Dihedral(3)
+	g := opened(t, six, f)
+	for s := range set.Set(1 << 6) {
+		for other := range set.Set(1 << 6) {
+			var all set.Set
+			for _, a := range s.List() {
+				for _, b := range other.List() {
+					all |= set.Of(g.Commutator(a, b))
+				}
+			}
+			same(t, fmt.Sprint("of ", s.List(), other.List()), g.Commutators(s, other), g.Made(all))
+		}
+	}
+	same(t, "all of them", g.Commutators(g.All(), g.All()).List(), "[0 1 2]")
+	same(t, "without any", g.Commutators(0, g.All()).List(), "[0]")
+}
+
+// TestClosure: held against all subgroups that have s and stay as they are.
+func TestClosure(t *testing.T) {
+	four, f := table.Dihedral(4)
+	g := opened(t, four, f)
+	var subgroups []set.Set
+	for s := range set.Set(1 << 8) {
+		if g.Made(s) == s {
+			subgroups = append(subgroups, s)
+		}
+	}
+	for _, by := range subgroups {
+		for s := range set.Set(1 << 8) {
+			want := g.All()
+			for _, h := range subgroups {
+				stays := !slices.ContainsFunc(by.List(), func(a int) bool { return g.Conjugated(h, a) != h })
+				if s.In(h) && stays {
+					want &= h
+				}
+			}
+			same(t, fmt.Sprint("of ", s.List(), " by ", by.List()), g.Closure(s, by).List(), want.List())
+		}
+	}
+}
