@@ -234,7 +234,7 @@ func apart(list []api.Group) []api.Group {
 	return out
 }
 
-// largeGroups have 24 to 60 things.
+// largeGroups have 25 to 60 things.
 func largeGroups(t *testing.T) []api.Group {
 	t.Helper()
 	two, three, six := given(t, table.Cyclic, 2), given(t, table.Cyclic, 3), given(t, table.Dihedral, 3)
