@@ -19,9 +19,9 @@ const (
 )
 
 // mostCosets is how many cosets are made of words of so many letters, with those
-// that turn out to be others, before the search is given up. Where up to 1000 are
-// left in the end, up to 372000 were seen to be made of 12 letters (BAA, BBBa and
-// CCAcB), far fewer of 11, and still far fewer of each number below.
+// that turn out to be others, before the search is given up. Where up to 1000
+// are left in the end, up to 372000 were seen to be made of 12 letters (BAA, BBBa
+// and CCAcB), some thousands of 11, and far fewer of each number below.
 func mostCosets(letters int) int { return 1 << (8 + min(letters, promised)) }
 
 // tooMany is what the search panics with when it is given up, as too many cosets
@@ -266,21 +266,21 @@ func (s *search) moveStep(laid []int, a, c int) []int {
 // numbered are the rows of the cosets that stand, in the order in which they are
 // come to, row by row, if there are no more than most.
 func (s *search) numbered(most int) ([][]int, bool) {
-	cosets, numbers := []int{0}, map[int]int{0: 0}
+	found, numbers := []int{0}, map[int]int{0: 0}
 	var rows [][]int
-	for len(rows) < len(cosets) {
+	for len(rows) < len(found) {
 		row := make([]int, s.columns)
 		for c := range row {
-			to := s.next(cosets[len(rows)], c)
+			to := s.next(found[len(rows)], c)
 			n, known := numbers[to]
 			if !known {
-				n = len(cosets)
+				n = len(found)
 				numbers[to] = n
-				cosets = append(cosets, to)
+				found = append(found, to)
 			}
 			row[c] = n
 		}
-		if len(cosets) > most {
+		if len(found) > most {
 			return nil, false
 		}
 		rows = append(rows, row)
