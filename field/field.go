@@ -76,10 +76,14 @@ func (f Field) cleared(rows [][]int, column int) [][]int {
 	rows = slices.Delete(rows, at, at+1)
 	inverse := f.Inverse(away[column])
 	for _, row := range rows {
-		often := row[column] * inverse % f.P
-		for i, a := range away {
-			row[i] = f.Mod(row[i] - often*a)
-		}
+		f.Take(row, row[column]*inverse%f.P, away)
 	}
 	return rows
+}
+
+// Take takes another row away from row, which is as long, so often.
+func (f Field) Take(row []int, often int, other []int) {
+	for i, a := range other {
+		row[i] = f.Mod(row[i] - often*a)
+	}
 }

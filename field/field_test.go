@@ -59,6 +59,24 @@ func TestInverse(t *testing.T) {
 	}
 }
 
+func TestTake(t *testing.T) {
+	for _, p := range primes(50) {
+		f := field.Field{P: p}
+		for often := range p {
+			row, other := []int{0, 1, p - 1, often, 0}, []int{p - 1, 1, often, p / 2, 0}
+			var want []int
+			for i, a := range other {
+				want = append(want, (row[i]+(p-often)*a)%p)
+			}
+			kept := slices.Clone(other)
+			f.Take(row, often, other)
+			if !slices.Equal(row, want) || !slices.Equal(other, kept) {
+				t.Errorf("%d times %v by %d: %v, want %v", often, other, p, row, want)
+			}
+		}
+	}
+}
+
 // taken is how a matrix takes a list.
 func taken(f field.Field, rows [][]int, list []int) []int {
 	out := make([]int, len(rows))
